@@ -8,6 +8,7 @@ import (
 	"kiosk/kept"
 	"kiosk/outbox"
 	"kiosk/subs"
+	"kiosk/twin"
 )
 
 // work is a broker at work, and what it says meanwhile.
@@ -18,15 +19,7 @@ type work struct {
 
 // newWork copies b, so that nothing of what was handed in is changed.
 func newWork(b api.Broker) *work {
-	c := api.Broker{Links: slices.Clone(b.Links), Sessions: slices.Clone(b.Sessions), Kept: slices.Clone(b.Kept)}
-	for i := range c.Sessions {
-		s := &c.Sessions[i]
-		s.Subs = slices.Clone(s.Subs)
-		s.Out.Flight = slices.Clone(s.Out.Flight)
-		s.Out.Queue = slices.Clone(s.Out.Queue)
-		s.In = slices.Clone(s.In)
-	}
-	return &work{Broker: c}
+	return &work{Broker: twin.Broker(b)}
 }
 
 // place finds the session of that client, or where it belongs.

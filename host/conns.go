@@ -25,19 +25,6 @@ end:
 	return ok
 }
 
-func clone(h api.Host) api.Host {
-	g := api.Host{Count: h.Count, Conns: slices.Clone(h.Conns)}
-	for i := range g.Conns {
-		c := &g.Conns[i]
-		c.Out = slices.Clone(c.Out)
-		c.In.Parts = slices.Clone(c.In.Parts)
-		for k := range c.In.Parts {
-			c.In.Parts[k].Data = slices.Clone(c.In.Parts[k].Data)
-		}
-	}
-	return g
-}
-
 // replace puts c where its predecessor was; a closed connection is removed.
 func replace(g *api.Host, at int, c api.Conn) {
 	if c.State == api.Closed {

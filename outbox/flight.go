@@ -4,14 +4,11 @@ import (
 	"slices"
 
 	"kiosk/api"
+	"kiosk/twin"
 )
 
 func valid(m api.Message) bool {
 	return len(m.Topic) >= 1 && len(m.Topic) <= api.MaxTopic && len(m.Payload) <= api.MaxPayload && (m.QoS == 1 || m.QoS == 2)
-}
-
-func clone(o api.Outbox) api.Outbox {
-	return api.Outbox{Last: o.Last, Flight: slices.Clone(o.Flight), Queue: slices.Clone(o.Queue)}
 }
 
 // find is the index of the element with that ID, or -1.
@@ -60,7 +57,7 @@ func remove(o api.Outbox, id int, done func(api.Flight) bool) (api.Outbox, []api
 	if at < 0 || !done(o.Flight[at]) {
 		return api.Outbox{}, nil, api.ErrNone
 	}
-	o = clone(o)
+	o = twin.Outbox(o)
 	o.Flight = slices.Delete(o.Flight, at, at+1)
 	out := fill(&o)
 	return o, out, api.OK

@@ -7,6 +7,7 @@ import (
 	"kiosk/reasm"
 	"kiosk/span"
 	"kiosk/timer"
+	"kiosk/twin"
 )
 
 // conn is a connection at work, and what it sends meanwhile.
@@ -17,12 +18,7 @@ type conn struct {
 
 // newConn copies c, so that nothing of what was handed in is changed.
 func newConn(c api.Conn) *conn {
-	c.Out = slices.Clone(c.Out)
-	c.In.Parts = slices.Clone(c.In.Parts)
-	for i := range c.In.Parts {
-		c.In.Parts[i].Data = slices.Clone(c.In.Parts[i].Data)
-	}
-	return &conn{Conn: c}
+	return &conn{Conn: twin.Conn(c)}
 }
 
 func (c *conn) sent() int { return span.Diff(c.Next, c.Una) }
