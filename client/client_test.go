@@ -81,8 +81,10 @@ func TestNew(t *testing.T) {
 			t.Errorf("%v: %v", x, e)
 		}
 	}
-	if c, e := client.New(top, 1<<48-1, 65535, top); c == nil || e != api.OK {
-		t.Error(e)
+	for _, x := range [][4]int{{0, 0, 0, 0}, {top, 1<<48 - 1, 65535, top}} {
+		if c, e := client.New(x[0], x[1], x[2], x[3]); c == nil || e != api.OK {
+			t.Errorf("%v: %v", x, e)
+		}
 	}
 }
 

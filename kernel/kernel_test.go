@@ -114,6 +114,17 @@ func (n *net) tick(times int) {
 	}
 }
 
+// lasts ends all by a crash, and sees whether all that should last was stored.
+func (n *net) lasts() {
+	n.t.Helper()
+	want, _ := broker.Durable(n.k.Broker())
+	n.d, _ = disk.New(n.d.Crash(nil))
+	n.start()
+	if !same.Broker(n.k.Broker(), want) {
+		n.t.Errorf("after a crash: %v, not %v", n.k.Broker(), want)
+	}
+}
+
 func addr(k int) (ip, mac, port int) { return 0x0a000010 + k, 0x020000000010 + k, 5000 + k }
 
 // come makes the k-th client, and lets it connect.
@@ -400,6 +411,7 @@ func TestMessages(t *testing.T) {
 	if _, over, _ := trace.Stream(n.frames, ip, port); !over {
 		t.Error("the stream to b goes on")
 	}
+	n.lasts()
 }
 
 // TestPieces: a packet may come in any pieces, and many in one.
@@ -482,6 +494,7 @@ func TestEnds(t *testing.T) {
 		}
 		n.tick(1)
 		n.is("s", "connack-0-false 9-9"+map[bool]string{true: " will=gone/0"}[c.will])
+		n.lasts()
 	}
 }
 
@@ -551,8 +564,10 @@ func TestDeaf(t *testing.T) {
 	n := begin(t)
 	n.come("s", 2, connect("s", false))
 	n.say("s", subscribe("will", 0))
+	n.come("later", 3, connect("later", false))
+	n.say("later", subscribe("will", 1), only(api.MqDisconnect, 0))
 	p := connect("w", false)
-	p.Will = api.Will{Is: true, Topic: "will", Payload: "lost"}
+	p.Will = api.Will{Is: true, Topic: "will", Payload: "lost", QoS: 1}
 	n.come("w", 1, p)
 	n.say("w", subscribe("t", 0))
 	n.deaf["w"] = 1
@@ -561,9 +576,15 @@ func TestDeaf(t *testing.T) {
 	n.is("s", "connack-0-false 9-9")
 	n.tick(1)
 	n.is("s", "connack-0-false 9-9 will=lost/0")
-	if len(n.k.Host().Conns) != 1 {
-		t.Error(n.k.Host())
+	for _, c := range n.k.Host().Conns {
+		if c.PeerPort == 5001 {
+			t.Error(c)
+		}
 	}
+	if b := n.k.Broker(); len(b.Sessions[0].Out.Queue) != 1 {
+		t.Error(b)
+	}
+	n.lasts()
 }
 
 // TestOverflow: one for whom too much waits is aborted at once; what comes of it is said behind all else.
@@ -674,8 +695,15 @@ func TestPower(t *testing.T) {
 			t.Error(off, out, e)
 		}
 	}
-	// A will that waits for a client is stored in a tick, too.
+	// What changes nothing that lasts is done without power.
 	n := begin(t)
+	n.come("a", 1, connect("a", false))
+	n.say("a", subscribe("#", 0))
+	n.d.Off(0)
+	n.say("a", only(api.MqPingreq, 0), publish("t", "x", 0, 0))
+	n.is("a", "connack-0-false 9-9 13-0 t=x/0")
+	// A will that waits for a client is stored in a tick, too.
+	n = begin(t)
 	p := connect("w", false)
 	p.KeepAlive, p.Will = 1, api.Will{Is: true, Topic: "will", QoS: 1}
 	n.come("w", 1, p)

@@ -36,14 +36,14 @@ func decodeHead(b []byte) (head, bool) {
 	return h, ok
 }
 
-// findHead finds the newest head that is whole, and tells whether the disk was written by somebody else: it then has no head, and not what is left when the very first one was torn.
-func (l *Log) findHead() (foreign bool, e api.Errno) {
+// findHead finds the newest head that is whole, and whether the disk was written by somebody else: it then has no head, and not what is left when the very first one was torn.
+func (l *Log) findHead() api.Errno {
 	var heads [slots][]byte
 	found := false
 	for slot := range slots {
 		b, e := read(l.d, slot)
 		if e != api.OK {
-			return false, e
+			return e
 		}
 		heads[slot] = b
 		h, ok := decodeHead(b)
@@ -52,12 +52,11 @@ func (l *Log) findHead() (foreign bool, e api.Errno) {
 			l.head, l.slot = h, slot
 		}
 	}
-	if found {
-		return false, api.OK
+	if !found {
+		l.slot = slots - 1 // so the first one goes into slot 0
+		l.foreign = !tornFrom(heads[0], head{epoch: 1}.encode()) || !tornFrom(heads[1], nil)
 	}
-	l.slot = slots - 1 // so the first one goes into slot 0
-	first := head{epoch: 1}.encode()
-	return !tornFrom(heads[0], first) || !tornFrom(heads[1], nil), api.OK
+	return api.OK
 }
 
 // tornFrom tells whether b is a beginning of whole, and zeros after that.
@@ -72,6 +71,37 @@ func tornFrom(b, whole []byte) bool {
 		}
 	}
 	return true
+}
+
+// begin begins an epoch, before anything is written. What was there on a disk of somebody else's gives way to a log here, and not before.
+func (l *Log) begin() api.Errno {
+	if l.begun {
+		return api.OK
+	}
+	e := api.OK
+	if l.foreign {
+		e = l.replace(l.records)
+	} else {
+		e = l.putHead(head{epoch: l.head.epoch + 1, since: l.head.since, region: l.head.region})
+	}
+	l.begun = e == api.OK
+	return e
+}
+
+// replace writes records into the other region, which counts from then on.
+func (l *Log) replace(s []string) api.Errno {
+	next := head{epoch: l.head.epoch + 1, since: l.head.epoch + 1, region: 1 - l.head.region}
+	tail, e := 0, api.OK
+	for _, x := range s {
+		if tail, e = l.put(next.region, tail, next.epoch, x); e != api.OK {
+			return e
+		}
+	}
+	if e = flush(l.d); e != api.OK {
+		return e
+	}
+	l.tail = tail
+	return l.putHead(next)
 }
 
 // putHead makes h the head that counts, durably; the one before it stays until then.

@@ -1,6 +1,7 @@
 package log_test
 
 import (
+	"bytes"
 	"math/rand"
 	"slices"
 	"strings"
@@ -257,6 +258,59 @@ func TestOtherPending(t *testing.T) {
 	}
 }
 
+// TestFailedForGood: after an error of the disk, whatever it was, the power is as good as off.
+func TestFailedForGood(t *testing.T) {
+	for _, f := range []func(*log.Log) api.Errno{func(l *log.Log) api.Errno { return l.Append("b") }, (*log.Log).Sync, func(l *log.Log) api.Errno { return l.Reset([]string{"b"}) }} {
+		d := blank()
+		l := open(t, d)
+		must(t, l.Append("a"))
+		for range api.MaxRequests {
+			d.Read(5)
+		}
+		if e := f(l); e != api.ErrFull {
+			t.Error(e)
+		}
+		for range api.MaxRequests {
+			d.Complete(0)
+		}
+		for _, e := range []api.Errno{l.Append("c"), l.Sync(), l.Reset(nil)} {
+			if e != api.ErrPower {
+				t.Error(e)
+			}
+		}
+		holds(t, l, "a")
+	}
+	var l log.Log
+	if l.Append("a") != api.ErrPower || l.Sync() != api.ErrPower || l.Reset(nil) != api.ErrPower || len(l.All()) != 0 {
+		t.Error("a log that nobody opened")
+	}
+}
+
+// TestForeignHeads: one head that no log has written is enough, but a first one that was torn is none of these.
+func TestForeignHeads(t *testing.T) {
+	d := blank()
+	must(t, open(t, d).Append(""))
+	first := d.Crash(nil)[:api.Sector]
+	for n := range api.Sector - 1 {
+		b := make([]byte, api.MaxSectors*api.Sector)
+		copy(b, first[:n])
+		torn, _ := disk.New(b)
+		holds(t, open(t, torn))
+		b[api.Sector+n] = 1
+		other, _ := disk.New(b)
+		if len(open(t, other).All()) == 0 {
+			t.Errorf("byte %d of the second head", n)
+		}
+		b[api.Sector+n] = 0
+		b[n] ^= 0x5a
+		b[api.Sector-1] ^= 0x5a
+		other, _ = disk.New(b)
+		if len(open(t, other).All()) == 0 {
+			t.Errorf("byte %d of the first head", n)
+		}
+	}
+}
+
 // TestForeign: any bytes can be opened, and what is appended is found again.
 func TestForeign(t *testing.T) {
 	r := rand.New(rand.NewSource(9))
@@ -269,6 +323,11 @@ func TestForeign(t *testing.T) {
 		}
 		d, _ := disk.New(b)
 		l := open(t, d)
+		if !bytes.Equal(d.Crash([]int{1, 1, 1, 1}), b) {
+			t.Error("it is written to before anything is appended")
+		}
+		d, _ = disk.New(b)
+		l = open(t, d)
 		was := l.All()
 		if k < 10 && len(was) == 0 {
 			t.Error("an empty log among random bytes")

@@ -58,6 +58,10 @@ func (l *Log) put(region, at, epoch int, s string) (int, api.Errno) {
 // scan reads the records of the region that counts, up to the first that isn't whole.
 func (l *Log) scan() api.Errno {
 	epoch := l.head.since
+	if l.foreign {
+		l.records, l.size = []string{foreignMark}, cost(foreignMark)
+		goto end
+	}
 	for {
 		s, p, e := l.record(epoch)
 		if e != api.OK {

@@ -77,5 +77,5 @@ func (m *Mem) number(at, n int) api.Errno {
 
 // has holds n against what is left: at + n could go round.
 func (m *Mem) has(at, n int) bool {
-	return at >= 0 && n <= len(m.b) && at <= len(m.b)-n
+	return at >= 0 && at <= len(m.b)-n
 }

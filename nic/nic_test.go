@@ -127,3 +127,13 @@ func TestOrder(t *testing.T) {
 		t.Error("cards share something")
 	}
 }
+
+// TestUnmade: a card that nobody made takes nothing and has nothing.
+func TestUnmade(t *testing.T) {
+	var n nic.Nic
+	_, polled := n.Poll()
+	_, out := n.Out()
+	if n.Receive(frame(14, 1)) || n.Send(frame(14, 1)) != api.ErrFull || polled || out || n.Dropped() != 1 {
+		t.Error(polled, out, n.Dropped())
+	}
+}

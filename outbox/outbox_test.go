@@ -226,3 +226,28 @@ func TestAll(t *testing.T) {
 		}
 	}
 }
+
+// TestArgumentsStay: neither an outbox nor the room behind its lists is changed.
+func TestArgumentsStay(t *testing.T) {
+	flight := append(make([]api.Flight, 0, 9), fl(1, "a", 2, false), fl(2, "b", 1, false))
+	queue := append(make([]api.Message, 0, 20), m("c", 1), m("d", 2), m("e", 1))
+	o := api.Outbox{Last: 2, Flight: flight, Queue: queue}
+	was := fmt.Sprint(o, flight[:9], queue[:20])
+	for k, f := range []func() (api.Outbox, []api.Mq, api.Errno){
+		func() (api.Outbox, []api.Mq, api.Errno) { return outbox.Offer(o, m("x", 1), true) },
+		func() (api.Outbox, []api.Mq, api.Errno) { return outbox.Offer(o, m("x", 1), false) },
+		func() (api.Outbox, []api.Mq, api.Errno) { return outbox.Resume(o) },
+		func() (api.Outbox, []api.Mq, api.Errno) { return outbox.Ack(o, 2) },
+		func() (api.Outbox, []api.Mq, api.Errno) { return outbox.Rec(o, 1) },
+	} {
+		x, _, e := f()
+		if e != api.OK || fmt.Sprint(o, flight[:9], queue[:20]) != was {
+			t.Errorf("%d: %v: an argument was changed", k, e)
+		}
+		clear(x.Flight)
+		clear(x.Queue)
+		if fmt.Sprint(o, flight[:9], queue[:20]) != was {
+			t.Errorf("%d: something is shared", k)
+		}
+	}
+}

@@ -73,6 +73,19 @@ func TestExamples(t *testing.T) {
 	}
 }
 
+// TestLengths: the remaining length has as few bytes as it can.
+func TestLengths(t *testing.T) {
+	for n, want := range map[int]string{126: "307e", 127: "307f", 128: "308001", 129: "308101"} {
+		b, e := pack.Bytes(api.Mq{Kind: api.MqPublish, Topic: x(2), Payload: x(n - 4)})
+		if head := len(want) / 2; hex.EncodeToString(b[:head]) != want || len(b) != head+n || e != api.OK {
+			t.Errorf("%d: %x, %v", n, b[:4], e)
+		}
+		if p, k, e := pack.Parse(b); len(p.Payload) != n-4 || k != len(b) || e != api.OK {
+			t.Errorf("%d: %v, %v", n, k, e)
+		}
+	}
+}
+
 // limits are packets at their limits.
 func limits() []api.Mq {
 	return []api.Mq{

@@ -131,11 +131,11 @@ func TestAddRefused(t *testing.T) {
 // TestThereAndBack: the order is kept, and the smallest free descriptors are taken.
 func TestThereAndBack(t *testing.T) {
 	m, a, b := pair(t, 4)
-	if _, _, ok, e := a.Used(); ok || e != api.OK {
-		t.Error(ok, e)
+	if head, n, ok, e := a.Used(); head != 0 || n != 0 || ok || e != api.OK {
+		t.Error(head, n, ok, e)
 	}
-	if _, _, ok, e := b.Pop(); ok || e != api.OK {
-		t.Error(ok, e)
+	if head, l, ok, e := b.Pop(); head != 0 || l != nil || ok || e != api.OK {
+		t.Error(head, l, ok, e)
 	}
 	lists := [][]api.Buf{{{Addr: 1, Len: 10, Write: true}}, {{Addr: 2, Len: 20}, {Addr: 3, Len: 30, Write: true}}, {{Addr: 4, Len: 40}}}
 	for k, l := range lists {
@@ -200,8 +200,8 @@ func TestUsedRefused(t *testing.T) {
 			t.Errorf("%d: %d, %d, %v, %v, %d", i, head, n, ok, e, a.Free())
 		}
 		b.Push(0, 0)
-		if _, _, ok, e := a.Used(); ok || e != api.ErrState {
-			t.Errorf("%d: %v, %v", i, ok, e)
+		if head, n, ok, e := a.Used(); head != 0 || n != 0 || ok || e != api.ErrState {
+			t.Errorf("%d: %d, %d, %v, %v", i, head, n, ok, e)
 		}
 		if _, e := a.Add(nil); e != api.ErrState {
 			t.Errorf("%d: %v", i, e)
@@ -255,6 +255,7 @@ func TestPopRefused(t *testing.T) {
 		{{24, 4, 1<<32 - 1}},         //
 		{{12, 2, 3}, {28, 2, 0}},     // written before read
 		{{68, 2, 2}, {32 + 8, 4, 0}}, // a descriptor that nobody wrote
+		{{14, 2, 4}, {72, 2, 5}},     // next is where the available ring begins, which would pass for a descriptor
 	} {
 		m, a, b := pair(t, 4)
 		a.Add([]api.Buf{{Addr: 2, Len: 20}, {Addr: 3, Len: 30, Write: true}})
@@ -265,8 +266,8 @@ func TestPopRefused(t *testing.T) {
 		if head != 0 || l != nil || ok || e != api.ErrForm {
 			t.Errorf("%d: %d, %v, %v, %v", i, head, l, ok, e)
 		}
-		if _, _, ok, e := b.Pop(); ok || e != api.ErrState {
-			t.Errorf("%d: %v, %v", i, ok, e)
+		if head, l, ok, e := b.Pop(); head != 0 || l != nil || ok || e != api.ErrState {
+			t.Errorf("%d: %d, %v, %v, %v", i, head, l, ok, e)
 		}
 		if e := b.Push(-1, -1); e != api.ErrState {
 			t.Errorf("%d: %v", i, e)
@@ -479,5 +480,31 @@ func TestIndexesGoRound(t *testing.T) {
 	}
 	if s := read(m, 34, 2) + read(m, 42, 2); s != "05000500" {
 		t.Error(s)
+	}
+}
+
+// TestAheadOfThoseInUse: chains that were given back are no longer in use.
+func TestAheadOfThoseInUse(t *testing.T) {
+	m, a, b := pair(t, 4)
+	a.Add([]api.Buf{{Addr: 4, Len: 40}})
+	b.Push(0, 0)
+	a.Used()
+	a.Add([]api.Buf{{Addr: 4, Len: 40}})
+	b.Push(0, 0)
+	m.Put(78, 2, 3) // it says that two more were used, and one is in use
+	if head, _, ok, e := a.Used(); head != 0 || ok || e != api.ErrForm {
+		t.Error(head, ok, e)
+	}
+}
+
+// TestUnmade: sides that nobody made are broken ones.
+func TestUnmade(t *testing.T) {
+	var a ring.Driver
+	var b ring.Device
+	_, e := a.Add([]api.Buf{{Len: 1}})
+	_, _, _, f := a.Used()
+	_, _, _, g := b.Pop()
+	if h := b.Push(0, 0); e != api.ErrState || f != api.ErrState || g != api.ErrState || h != api.ErrState || a.Free() != 0 {
+		t.Error(e, f, g, h)
 	}
 }

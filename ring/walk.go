@@ -121,9 +121,10 @@ func (d *Device) chain(head int) (l []api.Buf, ok bool) {
 		at = descBytes * id
 		addr, _ = d.m.Get(at, 8)
 		flags = d.number(at+12, 2)
-		if addr > maxAddr || flags > flagsAll {
+		if flags > flagsAll {
 			goto wrong
 		}
+		// An address that is too great for an int is below 0, and not valid either.
 		l = append(l, api.Buf{Addr: int(addr), Len: d.number(at+8, 4), Write: flags&flagWrite != 0})
 	}
 	if !goodBufs(l) {

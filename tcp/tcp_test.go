@@ -103,6 +103,7 @@ func TestCheck(t *testing.T) {
 		with(est, func(c *api.Conn) { c.Timer.Left = 1 }), with(est, func(c *api.Conn) { c.Timer.Tries = 9 }),
 		with(est, func(c *api.Conn) { c.Next = 104 }), with(est, func(c *api.Conn) { c.Next = 99 }),
 		with(api.Conn{}, func(c *api.Conn) { c.Out = []byte("x") }), with(api.Conn{}, func(c *api.Conn) { c.In.Next, c.In.Parts = 500, part }),
+		with(api.Conn{}, func(c *api.Conn) { c.Una = -1 }), with(api.Conn{}, func(c *api.Conn) { c.Una = top + 1 }), with(api.Conn{}, func(c *api.Conn) { c.Next = -1 }), with(api.Conn{}, func(c *api.Conn) { c.Next = top + 1 }),
 		with(api.Conn{}, func(c *api.Conn) { c.Timer.Wait = 1 }), with(api.Conn{}, func(c *api.Conn) { c.Timer.Tries = 1 }),
 		with(conn(api.SynReceived, "", 0), func(c *api.Conn) { c.Next = 100 }), with(conn(api.SynReceived, "ab", 0), func(c *api.Conn) { c.Next = 102 }),
 		with(conn(api.CloseWait, "ab", 0), func(c *api.Conn) { c.Next = 103 }),
@@ -156,19 +157,33 @@ func TestOpen(t *testing.T) {
 			t.Errorf("%d: %v, %v", i, c, e)
 		}
 	}
+	for i, f := range wrongFields() {
+		s := syn
+		f(&s)
+		if c, l, e := tcp.Open(1, 7, 100, s); showConn(c) != showConn(api.Conn{}) || l != nil || e != api.ErrForm {
+			t.Errorf("%d: %v, %v", i, c, e)
+		}
+	}
 	c, l, e = tcp.Open(0, 0, 0, from(api.Syn, 0, 0, strings.Repeat("x", api.MaxFrame-54)))
 	if c.State != api.SynReceived || len(l) != 1 || e != api.OK {
 		t.Error(c, l, e)
 	}
 }
 
+// wrongFields make a segment invalid, each by one field.
+func wrongFields() []func(*api.Seg) {
+	return []func(*api.Seg){
+		func(s *api.Seg) { s.SrcPort = -1 }, func(s *api.Seg) { s.SrcPort = 65536 }, func(s *api.Seg) { s.DstPort = -1 }, func(s *api.Seg) { s.DstPort = 65536 },
+		func(s *api.Seg) { s.Seq = -1 }, func(s *api.Seg) { s.Seq = top + 1 }, func(s *api.Seg) { s.Ack = -1 }, func(s *api.Seg) { s.Ack = top + 1 },
+		func(s *api.Seg) { s.Flags = api.Syn - 64 }, func(s *api.Seg) { s.Flags |= 64 }, func(s *api.Seg) { s.Window = -1 }, func(s *api.Seg) { s.Window = 65536 },
+		func(s *api.Seg) { s.Data = make([]byte, api.MaxFrame-53) },
+	}
+}
+
 // TestWrongSegments: of another peer, or not valid.
 func TestWrongSegments(t *testing.T) {
 	c := conn(api.Established, "", 0)
-	for i, f := range []func(*api.Seg){
-		func(s *api.Seg) { s.SrcPort = 5001 }, func(s *api.Seg) { s.DstPort = 80 }, func(s *api.Seg) { s.Seq = -1 }, func(s *api.Seg) { s.Ack = top + 1 }, func(s *api.Seg) { s.Flags = 64 },
-		func(s *api.Seg) { s.Window = 65536 }, func(s *api.Seg) { s.Data = make([]byte, api.MaxFrame-53) },
-	} {
+	for i, f := range append(wrongFields(), func(s *api.Seg) { s.SrcPort = 5001 }, func(s *api.Seg) { s.DstPort = 80 }) {
 		s := from(ack, 500, 100, "")
 		f(&s)
 		if x, l, told, e := tcp.Take(c, s); showConn(x) != showConn(api.Conn{}) || l != nil || told != nil || e != api.ErrForm {
@@ -233,6 +248,8 @@ func TestAcceptable(t *testing.T) {
 		{"no ack", est, from(api.Psh, 500, 100, "xy"), api.Conn{}, "", ""},
 		{"no ack, fin", est, from(api.Fin, 500, 100, "xy"), api.Conn{}, "", ""},
 		{"time wait, before", tw, from(fin, 499, 100, ""), old, dup, ""},
+		{"time wait, syn and a byte", tw, from(api.Syn, 499, 0, "x"), api.Conn{}, dup, ""},
+		{"time wait, syn", tw, from(api.Syn, 499, 0, ""), old, dup, ""},
 		{"time wait, before, rst", tw, from(rstAck, 499, 100, ""), api.Conn{}, "", ""},
 		{"time wait, within", tw, from(ack, 500, 100, ""), with(tw, window), "", ""},
 		{"time wait, data", tw, from(ack, 500, 100, "xy"), with(tw, window), dup, ""},
@@ -411,6 +428,9 @@ func TestTick(t *testing.T) {
 		{with(conn(api.LastAck, "", 0), soon), with(conn(api.LastAck, "", 0), later), seg(fin, 100, 500, "")},
 		{with(conn(api.Closings, "", 0), soon), with(conn(api.Closings, "", 0), later), seg(fin, 100, 500, "")},
 		{shut, with(shut, func(c *api.Conn) { c.Next, c.Timer = 101, back }), seg(push, 100, 500, "a")},
+		{with(conn(api.Established, "a", 0), soon), with(conn(api.Established, "a", 1), later), seg(push, 100, 500, "a")},
+		{with(conn(api.Established, "a", 1), soon), with(conn(api.Established, "a", 1), later), seg(push, 100, 500, "a")},
+		{with(conn(api.LastAck, "a", 0), soon), with(conn(api.LastAck, "a", 0), later), seg(push, 100, 500, "a")},
 		{with(conn(api.Established, "", 0), soon), conn(api.Established, "", 0), ""},
 		{with(conn(api.FinWait2, "", 0), soon), conn(api.FinWait2, "", 0), ""},
 		{with(conn(api.TimeWait, "", 0), soon), with(conn(api.TimeWait, "", 0), func(c *api.Conn) { c.State, c.Timer = api.Closed, api.Timer{} }), ""},
