@@ -494,6 +494,11 @@ func TestEnds(t *testing.T) {
 		}
 		n.tick(1)
 		n.is("s", "connack-0-false 9-9"+map[bool]string{true: " will=gone/0"}[c.will])
+		was := n.k.Broker()
+		n.raw(1, api.AckFlag, ping) // whoever is no longer known changes nothing
+		if !same.Broker(n.k.Broker(), was) {
+			t.Errorf("%d: %v, not %v", i, n.k.Broker(), was)
+		}
 		n.lasts()
 	}
 }
@@ -845,5 +850,97 @@ func TestAnyFrames(t *testing.T) {
 			n.k.Tick()
 		}
 		n.valid()
+	}
+}
+
+// TestLossyWire: over a wire that loses and repeats frames every message reaches the subscriber, in order, once the clocks go on.
+func TestLossyWire(t *testing.T) {
+	r := rand.New(rand.NewSource(6))
+	for range 10 {
+		n := begin(t)
+		n.come("p", 1, connect("p", false))
+		n.come("s", 2, connect("s", false))
+		n.say("s", subscribe("#", 2))
+		// lossy hands frames to the kernel and what it answers to the clients, but for those that are lost.
+		var lossy func(l [][]byte)
+		hear := func(out [][]byte) {
+			n.frames = append(n.frames, out...)
+			for _, f := range out {
+				for range []int{0, 1, 1, 1, 2}[r.Intn(5)] {
+					for _, name := range n.names() {
+						lossy(n.clients[name].Hear([][]byte{f}))
+					}
+				}
+			}
+		}
+		lossy = func(l [][]byte) {
+			for _, f := range l {
+				for range []int{0, 1, 1, 1, 2}[r.Intn(5)] {
+					out, e := n.k.Frame(f)
+					if e != api.OK {
+						t.Fatal(e)
+					}
+					hear(out)
+				}
+			}
+		}
+		// sure says a packet again and again, until the kernel has acknowledged it.
+		sure := func(name string, k int, p api.Mq) {
+			_, _, port := addr(k)
+			next := func() int {
+				for _, c := range n.k.Host().Conns {
+					if c.PeerPort == port {
+						return c.In.Next
+					}
+				}
+				t.Fatal(name, "has lost its connection")
+				return 0
+			}
+			was := next()
+			f, e := n.clients[name].Say(p)
+			for ; e == api.OK && next() == was; f, e = n.clients[name].Again() {
+				lossy([][]byte{f})
+				out, _ := n.k.Tick()
+				hear(out)
+			}
+		}
+		const count = 30
+		said, seen := 0, 0
+		var came []string
+		for round := 0; round < 2000 && (said < count || len(came) < count); round++ {
+			if waiting := n.k.Broker().Sessions[1].Out; said < count && len(waiting.Queue) < api.MaxQueue {
+				said++
+				sure("p", 1, publish("t", fmt.Sprint(said), 1+said%2, said))
+			}
+			out, _ := n.k.Tick()
+			hear(out)
+			n.valid()
+			l, _ := n.clients["s"].Got()
+			for ; seen < len(l); seen++ {
+				switch p := l[seen]; {
+				case p.Kind == api.MqPublish:
+					came = append(came, p.Payload)
+					sure("s", 2, only([]int{0, api.MqPuback, api.MqPubrec}[p.QoS], p.ID))
+				case p.Kind == api.MqPubrel:
+					sure("s", 2, only(api.MqPubcomp, p.ID))
+				}
+			}
+			if said >= api.MaxIn { // identifiers are free again
+				sure("p", 1, only(api.MqPubrel, said-api.MaxIn+1))
+			}
+		}
+		for k := range count {
+			if len(came) != count || came[k] != fmt.Sprint(k+1) {
+				t.Fatalf("%v came", came)
+			}
+		}
+		n.tick(100) // now nothing is lost any more
+		for k, name := range []string{"p", "s"} {
+			ip, _, port := addr(k + 1)
+			if l, e := trace.Packets(n.frames, ip, port); tell(l) != n.got(name) || e != api.OK {
+				t.Errorf("%s: the wire tells %q", name, tell(l))
+			}
+		}
+		n.lasts()
 	}
 }

@@ -103,6 +103,7 @@ func TestCheck(t *testing.T) {
 		with(est, func(c *api.Conn) { c.Timer.Left = 1 }), with(est, func(c *api.Conn) { c.Timer.Tries = 9 }),
 		with(est, func(c *api.Conn) { c.Next = 104 }), with(est, func(c *api.Conn) { c.Next = 99 }),
 		with(api.Conn{}, func(c *api.Conn) { c.Out = []byte("x") }), with(api.Conn{}, func(c *api.Conn) { c.In.Next, c.In.Parts = 500, part }),
+		with(conn(api.FinWait2, "", 0), func(c *api.Conn) { c.State = -1 }), with(conn(api.FinWait2, "", 0), func(c *api.Conn) { c.State = 9 }),
 		with(api.Conn{}, func(c *api.Conn) { c.Una = -1 }), with(api.Conn{}, func(c *api.Conn) { c.Una = top + 1 }), with(api.Conn{}, func(c *api.Conn) { c.Next = -1 }), with(api.Conn{}, func(c *api.Conn) { c.Next = top + 1 }),
 		with(api.Conn{}, func(c *api.Conn) { c.Timer.Wait = 1 }), with(api.Conn{}, func(c *api.Conn) { c.Timer.Tries = 1 }),
 		with(conn(api.SynReceived, "", 0), func(c *api.Conn) { c.Next = 100 }), with(conn(api.SynReceived, "ab", 0), func(c *api.Conn) { c.Next = 102 }),
@@ -175,7 +176,7 @@ func wrongFields() []func(*api.Seg) {
 	return []func(*api.Seg){
 		func(s *api.Seg) { s.SrcPort = -1 }, func(s *api.Seg) { s.SrcPort = 65536 }, func(s *api.Seg) { s.DstPort = -1 }, func(s *api.Seg) { s.DstPort = 65536 },
 		func(s *api.Seg) { s.Seq = -1 }, func(s *api.Seg) { s.Seq = top + 1 }, func(s *api.Seg) { s.Ack = -1 }, func(s *api.Seg) { s.Ack = top + 1 },
-		func(s *api.Seg) { s.Flags = api.Syn - 64 }, func(s *api.Seg) { s.Flags |= 64 }, func(s *api.Seg) { s.Window = -1 }, func(s *api.Seg) { s.Window = 65536 },
+		func(s *api.Seg) { s.Flags = api.Syn - 64 }, func(s *api.Seg) { s.Flags |= 64 }, func(s *api.Seg) { s.Flags = 64 }, func(s *api.Seg) { s.Window = -1 }, func(s *api.Seg) { s.Window = 65536 },
 		func(s *api.Seg) { s.Data = make([]byte, api.MaxFrame-53) },
 	}
 }
