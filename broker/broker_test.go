@@ -167,7 +167,9 @@ func some() api.Broker {
 }
 
 func TestCheck(t *testing.T) {
-	for i, b := range []api.Broker{{}, some(), {Links: []int{1, 2, 3, 4, 5, 6, 7, 8}}} {
+	long := some()
+	long.Sessions[0].Will.Topic, long.Sessions[0].Will.Payload = strings.Repeat("w", 64), strings.Repeat("x", 128)
+	for i, b := range []api.Broker{{}, some(), long, {Links: []int{1, 2, 3, 4, 5, 6, 7, 8}}} {
 		if e := broker.Check(b); e != api.OK {
 			t.Errorf("%d: %v", i, e)
 		}
